@@ -15,14 +15,17 @@ const (
 // sentinel stands in the spare room behind an argument, where nothing may be written.
 var sentinel = impl.Pair{Key: -77, Value: -78}
 
-// withSpare is the list with spare room behind it, which sentinels fill.
-func withSpare(list []impl.Pair) []impl.Pair {
+// roomBehind is a copy of the list with spare room behind it, which marks fill.
+func roomBehind[E any](list []E, mark E) []E {
 	room := slices.Clone(list)
 	for range 3 {
-		room = append(room, sentinel)
+		room = append(room, mark)
 	}
 	return room[:len(list):len(room)]
 }
+
+// withSpare is the list with spare room behind it, which sentinels fill.
+func withSpare(list []impl.Pair) []impl.Pair { return roomBehind(list, sentinel) }
 
 // wantStayed fails unless the argument that withSpare made is as it was, and its spare room too.
 func wantStayed(t *testing.T, arg, was []impl.Pair) {
@@ -58,4 +61,41 @@ func rising(n int, first, step int64) []impl.Pair {
 		list = append(list, impl.Pair{Key: first + i*step, Value: 10 * i})
 	}
 	return list
+}
+
+// sentinelNode stands in the spare room behind the nodes of a tree.
+var sentinelNode = impl.Node{Level: -77, High: -78, Right: -79, Owner: -80}
+
+// spareTree is a copy of the tree with spare room behind its nodes, and behind the pairs of each.
+func spareTree(t impl.Tree) impl.Tree {
+	t.Nodes = roomBehind(t.Nodes, sentinelNode)
+	for i, n := range t.Nodes {
+		t.Nodes[i].Pairs = withSpare(n.Pairs)
+	}
+	return t
+}
+
+func sameNode(a, b impl.Node) bool {
+	return a.Level == b.Level && slices.Equal(a.Pairs, b.Pairs) && a.High == b.High && a.Right == b.Right && a.Owner == b.Owner
+}
+
+func wantTree(t *testing.T, got, want impl.Tree) {
+	t.Helper()
+	if got.Root != want.Root || !slices.EqualFunc(got.Nodes, want.Nodes, sameNode) {
+		t.Fatalf("got %+v, want %+v", got, want)
+	}
+}
+
+// wantTreeStayed fails unless the argument that spareTree made is as it was, and its spare room too.
+func wantTreeStayed(t *testing.T, arg, was impl.Tree) {
+	t.Helper()
+	wantTree(t, arg, was)
+	for i, n := range was.Nodes {
+		wantStayed(t, arg.Nodes[i].Pairs, n.Pairs)
+	}
+	for _, n := range arg.Nodes[len(arg.Nodes):cap(arg.Nodes)] {
+		if !sameNode(n, sentinelNode) {
+			t.Fatalf("spare room behind %+v was written: %+v", was, n)
+		}
+	}
 }
