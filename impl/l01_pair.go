@@ -13,8 +13,11 @@ type Pair struct {
 
 func (p Pair) key() int64 { return p.Key }
 
+// keyNumber tells whether a pair could have that key.
+func keyNumber(key int64) bool { return 0 <= key && key <= MaxKey }
+
 func (p Pair) right() bool {
-	return 0 <= p.Key && p.Key <= MaxKey && 0 <= p.Value && p.Value <= MaxValue
+	return keyNumber(p.Key) && 0 <= p.Value && p.Value <= MaxValue
 }
 
 type keyed interface {
