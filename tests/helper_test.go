@@ -63,6 +63,14 @@ func rising(n int, first, step int64) []impl.Pair {
 	return list
 }
 
+// drawsFrom draws numbers below n, the same ones each time it begins with that turn.
+func drawsFrom(turn int64) func(n int64) int64 {
+	return func(n int64) int64 {
+		turn = (turn*1103515245 + 12345) % (1 << 31)
+		return turn / 64 % n
+	}
+}
+
 // sentinelNode stands in the spare room behind the nodes of a tree.
 var sentinelNode = impl.Node{Level: -77, High: -78, Right: -79, Owner: -80}
 

@@ -253,11 +253,7 @@ func TestLatchAndLetGo(t *testing.T) {
 
 // TestOneOwnerAtATime lets all tasks take and let go in a drawn order, beside a list of who has what.
 func TestOneOwnerAtATime(t *testing.T) {
-	turn := int64(5)
-	draw := func(n int64) int64 {
-		turn = (turn*1103515245 + 12345) % (1 << 31)
-		return turn / 64 % n
-	}
+	draw := drawsFrom(5)
 	tree := threeLevels()
 	owners := []int64{0, 2, 0, 0, 0, 0, 0, 6}
 	for range 3000 {

@@ -362,11 +362,7 @@ func wantedRow(t impl.Tree, at, level int64) []int64 {
 }
 
 func TestRowsOfDrawnTrees(t *testing.T) {
-	turn := int64(1)
-	draw := func(n int64) int64 {
-		turn = (turn*1103515245 + 12345) % (1 << 31)
-		return turn / 64 % n
-	}
+	draw := drawsFrom(1)
 	for range 5000 {
 		tree := drawnTree(draw)
 		if !impl.TreeOk(tree) {

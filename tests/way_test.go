@@ -438,11 +438,7 @@ func renumbered(draw func(int64) int64, tree impl.Tree) impl.Tree {
 
 // TestEachKeyHasAWayToOneLeaf tells promise 5: from the root, and from each node that the key is not to the left of, there is one leaf for it.
 func TestEachKeyHasAWayToOneLeaf(t *testing.T) {
-	turn := int64(3)
-	draw := func(n int64) int64 {
-		turn = (turn*1103515245 + 12345) % (1 << 31)
-		return turn / 64 % n
-	}
+	draw := drawsFrom(3)
 	for i := range 300 {
 		tree, leaves := drawnSound(draw)
 		if !impl.TreeOk(tree) {
@@ -489,11 +485,7 @@ func wantHome(t *testing.T, what string, tree impl.Tree, key, leaf int64) {
 
 // TestWaysOfDrawnTrees goes by links to anywhere.
 func TestWaysOfDrawnTrees(t *testing.T) {
-	turn := int64(2)
-	draw := func(n int64) int64 {
-		turn = (turn*1103515245 + 12345) % (1 << 31)
-		return turn / 64 % n
-	}
+	draw := drawsFrom(2)
 	for i := range 2000 {
 		what := fmt.Sprint("drawn tree ", i)
 		tree := drawnTree(draw)
