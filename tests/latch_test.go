@@ -368,23 +368,32 @@ func TestAnswersOfLatchesAreNewMemory(t *testing.T) {
 	}
 }
 
+// sharedPairs is a right tree whose nodes have their pairs in the same memory; and that list, with spare room behind it.
+func sharedPairs() (impl.Tree, []impl.Pair) {
+	list := withSpare([]impl.Pair{pair(1, 0), pair(2, 0)})
+	return treeOf(0, endLeaf(list...), endInner(1, list...), endLeaf(list[:1]...), endLeaf(list[:0]...), endLeaf(list[1:]...)), list
+}
+
+// wantPairsApart writes over the pairs of one node of an answered tree, and then looks at the others.
+func wantPairsApart(t *testing.T, got impl.Tree, i int) {
+	t.Helper()
+	want := spareTree(got)
+	scribble(got.Nodes[i].Pairs)
+	got.Nodes[i].Pairs, want.Nodes[i].Pairs = nil, nil
+	wantTree(t, got, want)
+}
+
 // TestListsOfLatchAnswersAreApart: the pairs of one node of an answer have no memory of those of another one, as here those of the argument have.
 func TestListsOfLatchAnswersAreApart(t *testing.T) {
-	list := withSpare([]impl.Pair{pair(1, 0), pair(2, 0)})
-	tree := treeOf(0, endLeaf(list...), endInner(1, list...), endLeaf(list[:1]...), endLeaf(list[:0]...), endLeaf(list[1:]...))
+	tree, list := sharedPairs()
 	if !impl.TreeOk(tree) {
 		t.Fatal("refused")
 	}
 	for i := range tree.Nodes {
 		eachLatchCall(tree, func(call func() impl.Tree) {
-			got := call()
-			if len(got.Nodes) == 0 {
-				return
+			if got := call(); len(got.Nodes) > 0 {
+				wantPairsApart(t, got, i)
 			}
-			want := spareTree(got)
-			scribble(got.Nodes[i].Pairs)
-			got.Nodes[i].Pairs, want.Nodes[i].Pairs = nil, nil
-			wantTree(t, got, want)
 		})
 	}
 	wantStayed(t, list, []impl.Pair{pair(1, 0), pair(2, 0)})
